@@ -670,20 +670,27 @@ func TestMatrixFunctionsKeepTheirArguments(t *testing.T) {
 func TestMatricesAreNewMemory(t *testing.T) {
 	for _, m := range someMatrices() {
 		for _, f := range matrixMakers() {
-			kept := f.make(m, unit(len(m)))
-			want := copyRows(kept)
-			overwriteRows(f.make(m, unit(len(m))))
-			if got := f.make(m, unit(len(m))); !equalRows(got, want) || !equalRows(kept, want) {
-				t.Fatalf("%s of %v = %v and %v after another result was changed; want %v", f.name, m, kept, got, want)
-			}
-			for i := range kept {
-				overwriteRow(kept[i])
-				for k := i + 1; k < len(kept); k++ {
-					if !slices.Equal(kept[k], want[k]) {
-						t.Fatalf("%s of %v: the rows %d and %d share memory", f.name, m, i, k)
-					}
-				}
+			checkNewMemory(t, f.name, m, func() [][]int { return f.make(m, unit(len(m))) })
+		}
+	}
+}
+
+// checkNewMemory demands that the tables that a function makes of m share no memory with each other, nor one of their rows with another.
+func checkNewMemory(t *testing.T, name string, m [][]int, makeTable func() [][]int) {
+	t.Helper()
+	kept := makeTable()
+	want := copyRows(kept)
+	overwriteRows(makeTable())
+	if got := makeTable(); !equalRows(got, want) || !equalRows(kept, want) {
+		t.Fatalf("%s of %v = %v and %v after another result was changed; want %v", name, m, kept, got, want)
+	}
+	for i := range kept {
+		overwriteRow(kept[i])
+		for k := range kept {
+			if k != i && !slices.Equal(kept[k], want[k]) {
+				t.Fatalf("%s of %v: the rows %d and %d share memory", name, m, i, k)
 			}
 		}
+		copy(kept[i], want[i])
 	}
 }
