@@ -589,36 +589,45 @@ func tableMakers() []namedTable {
 
 func TestGraphFunctionsKeepTheirArguments(t *testing.T) {
 	for _, given := range slices.Concat(someGraphs(), someMatrices(), noGraphs()) {
-		m := spareRows(given)
-		want := wholeRows(m)
-		check := func(name string) {
-			t.Helper()
-			if !equalRows(wholeRows(m), want) {
-				t.Fatalf("%s of %v changed it to %v", name, given, wholeRows(m))
+		checkKeptRows(t, given, tableMakers(), func(m [][]int) {
+			for _, path := range [][]int{nil, {}, {0}, {0, 0}, {0, 1, 2, 0}, {-1, 0}, {60, 60}} {
+				list := spareRows([][]int{path})
+				wantList := wholeRows(list)
+				impl.IsPath(m, list[0])
+				if !equalRows(wholeRows(list), wantList) {
+					t.Fatalf("IsPath of %v and %v changed the list to %v", given, path, wholeRows(list))
+				}
 			}
-		}
-		for _, f := range tableMakers() {
-			made := f.make(m)
-			check(f.name)
-			// A change of the result shows whether it shares memory with the argument.
-			overwriteRows(made)
-			check("A change of the result of " + f.name)
-		}
-		for _, path := range [][]int{nil, {}, {0}, {0, 0}, {0, 1, 2, 0}, {-1, 0}, {60, 60}} {
-			list := spareRows([][]int{path})
-			wantList := wholeRows(list)
-			impl.IsPath(m, list[0])
-			if !equalRows(wholeRows(list), wantList) {
-				t.Fatalf("IsPath of %v and %v changed the list to %v", given, path, wholeRows(list))
+			impl.IsGraph(m)
+			impl.IsLively(m)
+			for _, n := range []int{-1, 0, 1, 5, 30, 31} {
+				impl.CountPaths(m, n)
 			}
-		}
-		impl.IsGraph(m)
-		impl.IsLively(m)
-		for _, n := range []int{-1, 0, 1, 5, 30, 31} {
-			impl.CountPaths(m, n)
-		}
-		check("A function that returns no table")
+		})
 	}
+}
+
+// checkKeptRows demands that a copy of the matrix, with unused capacity, stays as it is: whatever is made of it, when that is changed, and when others
+// are called.
+func checkKeptRows(t *testing.T, given [][]int, makers []namedTable, callOthers func(m [][]int)) {
+	t.Helper()
+	m := spareRows(given)
+	want := wholeRows(m)
+	check := func(name string) {
+		t.Helper()
+		if !equalRows(wholeRows(m), want) {
+			t.Fatalf("%s of %v changed it to %v", name, given, wholeRows(m))
+		}
+	}
+	for _, f := range makers {
+		made := f.make(m)
+		check(f.name)
+		// A change of the result shows whether it shares memory with the argument.
+		overwriteRows(made)
+		check("A change of the result of " + f.name)
+	}
+	callOthers(m)
+	check("A function that returns no table")
 }
 
 func TestListsOfGraphsAreNewMemory(t *testing.T) {
