@@ -640,31 +640,40 @@ func matrixMakers() []namedResult {
 func TestMatrixFunctionsKeepTheirArguments(t *testing.T) {
 	for _, m := range append(someMatrices(), noMatrices()...) {
 		for _, other := range [][][]int{m, unit(max(len(m), 1)), {{1}}, nil, {{1, 2}}} {
-			a, b := spareRows(m), spareRows(other)
-			wantA, wantB := wholeRows(a), wholeRows(b)
-			check := func(name string) {
-				t.Helper()
-				if !equalRows(wholeRows(a), wantA) || !equalRows(wholeRows(b), wantB) {
-					t.Fatalf("%s of %v and %v changed them to %v and %v", name, m, other, wholeRows(a), wholeRows(b))
-				}
-			}
-			for _, f := range matrixMakers() {
-				for _, made := range [][][]int{f.make(a, b), f.make(b, a), f.make(a, a)} {
-					check(f.name)
-					// A change of the result shows whether it shares memory with an argument.
-					overwriteRows(made)
-					check("A change of the result of " + f.name)
-				}
-			}
-			impl.IsMatrix(a)
-			impl.EqualMatrix(a, b)
-			impl.EqualMatrix(b, a)
-			impl.TraceOf(a)
-			impl.SumOf(a)
-			impl.MatrixText(a)
-			check("A function that returns no matrix")
+			checkKeptPair(t, m, other, matrixMakers(), func(a, b [][]int) {
+				impl.IsMatrix(a)
+				impl.EqualMatrix(a, b)
+				impl.EqualMatrix(b, a)
+				impl.TraceOf(a)
+				impl.SumOf(a)
+				impl.MatrixText(a)
+			})
 		}
 	}
+}
+
+// checkKeptPair demands that copies of two tables, with unused capacity, stay as they are: whatever is made of them, when that is changed, and when
+// others are called.
+func checkKeptPair(t *testing.T, m, other [][]int, makers []namedResult, callOthers func(a, b [][]int)) {
+	t.Helper()
+	a, b := spareRows(m), spareRows(other)
+	wantA, wantB := wholeRows(a), wholeRows(b)
+	check := func(name string) {
+		t.Helper()
+		if !equalRows(wholeRows(a), wantA) || !equalRows(wholeRows(b), wantB) {
+			t.Fatalf("%s of %v and %v changed them to %v and %v", name, m, other, wholeRows(a), wholeRows(b))
+		}
+	}
+	for _, f := range makers {
+		for _, made := range [][][]int{f.make(a, b), f.make(b, a), f.make(a, a)} {
+			check(f.name)
+			// A change of the result shows whether it shares memory with an argument.
+			overwriteRows(made)
+			check("A change of the result of " + f.name)
+		}
+	}
+	callOthers(a, b)
+	check("A function that returns no matrix")
 }
 
 func TestMatricesAreNewMemory(t *testing.T) {
