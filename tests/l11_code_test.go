@@ -754,7 +754,13 @@ func TestCodeFunctionsAgain(t *testing.T) {
 		r.text = impl.CodeText(composed) + impl.CodeText(c)
 		return r
 	}
-	first := make([]results, len(list))
+	checkAgain(t, list, call)
+}
+
+// checkAgain calls for all codes twice, the second time in reverse order.
+func checkAgain[R comparable](t *testing.T, list []impl.Code, call func(impl.Code) R) {
+	t.Helper()
+	first := make([]R, len(list))
 	for i, c := range list {
 		first[i] = call(c)
 	}
