@@ -757,12 +757,12 @@ func TestCodeFunctionsAgain(t *testing.T) {
 	checkAgain(t, list, call)
 }
 
-// checkAgain calls for all codes twice, the second time in reverse order.
-func checkAgain[R comparable](t *testing.T, list []impl.Code, call func(impl.Code) R) {
+// checkAgain calls for the whole list twice, the second time in reverse order.
+func checkAgain[A any, R comparable](t *testing.T, list []A, call func(A) R) {
 	t.Helper()
 	first := make([]R, len(list))
-	for i, c := range list {
-		first[i] = call(c)
+	for i, argument := range list {
+		first[i] = call(argument)
 	}
 	for i := len(list) - 1; i >= 0; i-- {
 		if got := call(list[i]); got != first[i] {
